@@ -23,31 +23,106 @@ func nestedWords(depth int, all func(api.Part) api.Part, last ...api.Part) list 
 
 func asItIs(p api.Part) api.Part { return p }
 
-// TestDepthOfWords nests Words up to the depth 30, where the string itself has the depth 1, and beyond it.
-func TestDepthOfWords(t *testing.T) {
-	for n := range 30 {
-		checkParts(t, nested("${a-", "", "}", n), nestedWords(n, asItIs)...)
-		checkParts(t, nested("${a-", "b'c'", "}", n), nestedWords(n, asItIs, text("b"), qtext("c"))...)
-		checkParts(t, nested("${a-", "${b}", "}", n), nestedWords(n, asItIs, param("b"))...)
-		checkParts(t, nested("${a-", "${#b}", "}", n), nestedWords(n, asItIs, op("b", "len"))...)
-		checkParts(t, nested("${a-", "$((1))", "}", n), nestedWords(n, asItIs, arith("1"))...)
-		checkParts(t, nested("${a-", `"$b"`, "}", n), nestedWords(n, asItIs, quoted(param("b")))...)
-		if n > 0 {
-			checkParts(t, `"`+nested("${a-", "b", "}", n)+`"`, nestedWords(n, quoted, qtext("b"))...)
-			checkParts(t, nested(`"${a-`, "b", `}"`, n), nestedWords(n, quoted, qtext("b"))...)
-			checkRefused(t, nested("${a-", "$(b)", "}", n), api.ErrWord)
+// openUnits returns how many units are nested in one another at most in a string whose units are all closed. It keeps a list of the closing bytes of those that are open.
+func openUnits(s string) int {
+	most, open := 0, []byte{noByte}
+	for at := 0; at < len(s); {
+		within := open[len(open)-1]
+		if within != noByte && s[at] == within {
+			open = open[:len(open)-1]
+			at++
+			continue
+		}
+		most = max(most, len(open))
+		switch rest := s[at:]; {
+		case rest[0] == '\\':
+			at += 2
+		case rest[0] == '\'' && within != '"':
+			at += strings.Index(rest[1:], "'") + 2
+		case rest[0] == '"':
+			open = append(open, '"')
+			at++
+		case strings.HasPrefix(rest, "$("):
+			open = append(open, ')')
+			at += 2
+		case strings.HasPrefix(rest, "${"):
+			open = append(open, '}')
+			at += 2
+		case rest[0] == '(' && within == ')':
+			open = append(open, ')')
+			at++
+		default:
+			at++
 		}
 	}
-	for _, n := range []int{30, 31, 32, 40, 60, 100, 1000} {
-		for _, inner := range []string{"", "b", "'b'", "${b}", "$((1))", "${", "${}", "$(b)", "$b"} {
-			if inner == "${" {
-				checkRefused(t, nested("${a-", inner, "}", n), api.ErrWord)
-				continue
+	return most
+}
+
+func TestOpenUnits(t *testing.T) {
+	for s, want := range map[string]int{"": 0, "a": 1, "'a'": 1, `\a`: 1, "(a)": 1, `""`: 1, `"a"`: 2, `"'"`: 2, "${}": 1, "${a}": 2, "$()": 1, "$(a)": 2, "$((a))": 3, `$("(a)")`: 3, `"${a-"b"}c"`: 4, "${a-${b}}c": 3} {
+		if got := openUnits(s); got != want {
+			t.Errorf("%q: %d, want %d", s, got, want)
+		}
+	}
+}
+
+// TestDepthOfWords nests Words in one another, each of which is in one more unit, up to the limit of units and beyond it.
+func TestDepthOfWords(t *testing.T) {
+	for _, c := range []struct {
+		s     string
+		parts list
+		units int // of the string, in one another
+	}{
+		// The name of the parameter that an empty Word belongs to is a unit as well.
+		{"", nil, 0},
+		{"b", list{text("b")}, 1},
+		{"b'c'", list{text("b"), qtext("c")}, 1},
+		{`\b`, list{qtext("b")}, 1},
+		{`""`, list{qtext("")}, 1},
+		{`"b"`, list{qtext("b")}, 2},
+		{`"'"`, list{qtext("'")}, 2},
+		{"$b", list{param("b")}, 1},
+		{`"$b"`, list{quoted(param("b"))}, 2},
+		{"${b}", list{param("b")}, 2},
+		{"${#b}", list{op("b", "len")}, 2},
+		{`"${b}"`, list{quoted(param("b"))}, 3},
+		{"$(())", list{arith("")}, 2},
+		{"$((1))", list{arith("1")}, 3},
+		{`"$((1))"`, list{quoted(arith("1"))}, 4},
+	} {
+		for n := range 40 {
+			if n > 30-c.units || n > 29 {
+				checkRefused(t, nested("${a-", c.s, "}", n), api.ErrWord)
+				checkRefused(t, "$b"+nested("${a-", c.s, "}", n)+"c", api.ErrWord)
+			} else {
+				checkParts(t, nested("${a-", c.s, "}", n), nestedWords(n, asItIs, c.parts...)...)
 			}
-			checkRefused(t, nested("${a-", inner, "}", n), api.ErrLong)
-			checkRefused(t, `"`+nested("${a-", inner, "}", n)+`"`, api.ErrLong)
-			checkRefused(t, nested(`"${a-`, inner, `}"`, n), api.ErrLong)
-			checkRefused(t, "$b"+nested("${a-", inner, "}", n)+"c", api.ErrLong)
+		}
+	}
+}
+
+// TestDepthOfQuotedWords nests Words in double quotes, which are units as the braces are.
+func TestDepthOfQuotedWords(t *testing.T) {
+	for n := 1; n < 40; n++ {
+		once, each := `"`+nested("${a-", "b", "}", n)+`"`, nested(`"${a-`, "b", `}"`, n)
+		if n > 28 {
+			checkRefused(t, once, api.ErrWord)
+			checkRefused(t, "${c-"+once+"}", api.ErrWord)
+			checkRefused(t, `"`+nested("${a-", "", "}", n)+`"`, api.ErrWord)
+		} else {
+			checkParts(t, once, nestedWords(n, quoted, qtext("b"))...)
+			checkParts(t, `"`+nested("${a-", "", "}", n)+`"`, nestedWords(n, quoted)...)
+		}
+		if n > 14 {
+			checkRefused(t, each, api.ErrWord)
+		} else {
+			checkParts(t, each, nestedWords(n, quoted, qtext("b"))...)
+		}
+		// What is in a Word's own quotes is in one unit more.
+		if n > 27 {
+			checkRefused(t, `"`+nested("${a-", `"b"`, "}", n)+`"`, api.ErrWord)
+		} else {
+			checkParts(t, `"`+nested("${a-", `"b"`, "}", n)+`"`, nestedWords(n, quoted, qtext("b"))...)
 		}
 	}
 }
@@ -61,51 +136,88 @@ func TestWordsSideBySide(t *testing.T) {
 	}
 	checkParts(t, row, want...)
 	checkParts(t, nested("${a-", row, "}", 28), nestedWords(28, asItIs, want...)...)
-	checkRefused(t, nested("${a-", row, "}", 29), api.ErrLong)
+	checkRefused(t, nested("${a-", row, "}", 29), api.ErrWord)
+	// A unit that is nested too deeply may stand behind others that are not.
+	checkRefused(t, row+nested("${a-", "b", "}", 30), api.ErrWord)
+	checkRefused(t, "${a-"+row+nested("${a-", "b", "}", 29)+"}", api.ErrWord)
+	checkRefused(t, `"`+row+nested("${a-", "b", "}", 29)+row+`"`, api.ErrWord)
 }
 
-// TestLeftmostError has two errors in one string.
+// checkAt fails unless a string at a depth has an error, and no parts beside it. The depth of a string that Parse is given is 1.
+func checkAt(t *testing.T, depth int, s string, want api.Errno) {
+	t.Helper()
+	if got, f := parseAt(depth, s, false); f != want || len(got) != 0 {
+		t.Errorf("H1: %.100q at the depth %d: %s and %d, want the error %d alone", s, depth, told(got), f, want)
+	}
+}
+
+// TestWordsTooDeep has Words beyond the depth 30. Parse never comes to one, since its braces are invalid units before; so the reading of a string at a depth is tested by itself.
+func TestWordsTooDeep(t *testing.T) {
+	for depth := 1; depth <= 30; depth++ {
+		s := nested("${a-", "b", "}", 30-depth)
+		if got, f := parseAt(depth, s, false); f != api.OK || depth < 30 && !same(got, nestedWords(30-depth, asItIs, text("b"))) {
+			t.Errorf("H1: %.100q at the depth %d: %s and %d", s, depth, told(got), f)
+		}
+		if depth > 1 {
+			checkAt(t, depth, nested("${a-", "b", "}", 31-depth), api.ErrLong)
+			checkAt(t, depth, nested("${a-", "", "}", 31-depth), api.ErrLong)
+		}
+	}
+	for _, s := range []string{"", "b", "'b'", "${b}", "${}", "$(b)"} {
+		checkAt(t, 30, "${a-"+s+"}", api.ErrLong)
+		checkAt(t, 30, `"${a-`+s+`}"`, api.ErrLong)
+	}
+}
+
+// TestLeftmostError has two errors in one string, one of which is a Word that is too deep.
 func TestLeftmostError(t *testing.T) {
-	long := nested("${a-", "b", "}", 30)
+	const depth = 20
+	long := nested("${a-", "b", "}", 11)
 	for _, bad := range []string{"${}", "${a:}", "${1=b}", "${a-$(b)}", "${a-${}}"} {
-		checkRefused(t, bad+long, api.ErrWord)
-		checkRefused(t, long+bad, api.ErrLong)
-		checkRefused(t, `"`+bad+long+`"`, api.ErrWord)
-		checkRefused(t, `"`+long+bad+`"`, api.ErrLong)
-		checkRefused(t, `"`+long+`"`+bad, api.ErrLong)
-		checkRefused(t, "${c-"+bad+long+"}", api.ErrWord)
-		checkRefused(t, "${c-"+long+bad+"}", api.ErrLong)
+		checkAt(t, depth, bad+long, api.ErrWord)
+		checkAt(t, depth, long+bad, api.ErrLong)
+		checkAt(t, depth, `"`+bad+long+`"`, api.ErrWord)
+		checkAt(t, depth, `"`+long+bad+`"`, api.ErrLong)
+		checkAt(t, depth, `"`+long+`"`+bad, api.ErrLong)
+		checkAt(t, depth, "${c-"+bad+long+"}", api.ErrWord)
+		checkAt(t, depth, "${c-"+long+bad+"}", api.ErrLong)
 	}
-	for _, bad := range []string{`\`, "'", `"`, "$(", "${", "${a"} {
-		checkRefused(t, long+bad, api.ErrLong)
+	for _, bad := range []string{`\`, "'", `"`, "$(", "${", "${a", nested("${a-", "b", "}", 30), `"` + nested("${a-", "b", "}", 29) + `"`} {
+		checkAt(t, depth, long+bad, api.ErrLong)
+		if bad != `\` {
+			checkAt(t, depth, bad+long, api.ErrWord)
+		}
 	}
-	// A unit that is not closed begins before what is in it.
+	// A unit that is invalid begins before what is in it.
 	for _, bad := range []string{`"`, "$(", "${", "${c", "${c-", `"${c-`, `"$(`} {
-		checkRefused(t, bad+long, api.ErrWord)
+		checkAt(t, depth, bad+long, api.ErrWord)
 	}
-	for _, bad := range []string{`\`, "'", "$(", "${", "${a"} {
-		checkRefused(t, "${c-"+long+bad, api.ErrWord)
-		checkRefused(t, `"`+long+bad, api.ErrWord)
+	for _, bad := range []string{`\`, "'", "$(", "${", "${a", nested("${a-", "b", "}", 29) + "}"} {
+		checkAt(t, depth, "${c-"+long+bad, api.ErrWord)
+	}
+	for _, bad := range []string{`\`, "$(", "${", "${a", nested("${a-", "b", "}", 29) + `"`} {
+		checkAt(t, depth, `"`+long+bad, api.ErrWord)
 	}
 }
 
 // TestErrorsInBraces has the order of the errors of a parameter in braces.
 func TestErrorsInBraces(t *testing.T) {
-	long := nested("${a-", "b", "}", 30)
+	const depth = 20
+	long := nested("${a-", "b", "}", 11)
 	for _, s := range []string{"${-" + long + "}", "${" + long + "}", "${c:" + long + "}", "${c " + long + "}", "${1=" + long + "}", "${#:=" + long + "}", "${#c" + long + "}"} {
-		checkRefused(t, s, api.ErrWord)
+		checkAt(t, depth, s, api.ErrWord)
 	}
 	// A Command among the parts of a Word is an error behind all others of that Word.
 	for _, s := range []string{"${c-$(d)" + long + "}", "${c-" + long + "$(d)}", `${c-"$(d)` + long + `"}`, `"${c=$(d)` + long + `}"`, "${c-${d-$(e)" + long + "}}", "${c-$(d)${e-" + long + "}}"} {
-		checkRefused(t, s, api.ErrLong)
+		checkAt(t, depth, s, api.ErrLong)
 	}
 	// In another Word to the left it is one before them.
 	for _, s := range []string{"${c-${d-$(e)}" + long + "}", "${c-$(d)${e-$(f)}" + long + "}", "${c-$(d)}" + long} {
-		checkRefused(t, s, api.ErrWord)
+		checkAt(t, depth, s, api.ErrWord)
 	}
 }
 
-// TestDepthOfUnits nests units in a `$(`, where as many may be nested in one another as in a word of layer 7.
+// TestDepthOfUnits nests units of one kind, by themselves and in other units, where as many may be in one another as in a word of layer 7.
 func TestDepthOfUnits(t *testing.T) {
 	for _, unit := range [][2]string{{"$(", ")"}, {"(", ")"}, {"${", "}"}, {`$("`, `")`}, {`"${`, `}"`}} {
 		units := strings.Count(unit[0], "(") + strings.Count(unit[0], "{") + strings.Count(unit[0], `"`)
@@ -120,17 +232,11 @@ func TestDepthOfUnits(t *testing.T) {
 				if inner != "" {
 					deepest++
 				}
-				for _, before := range []string{"", "a", "$b"} {
-					if deepest > 30 {
-						checkRefused(t, before+"$( "+content+" )", api.ErrWord)
-						checkRefused(t, before+`"$( `+content+` )"`, api.ErrWord)
-						continue
-					}
-					got, f := Parse(before + "$( " + content + " )")
-					if f != api.OK || len(got) == 0 || !samePart(got[len(got)-1], command(" "+content+" ")) {
-						t.Errorf("H1: %d of %q with %q: %s and %d", n, unit, inner, told(got), f)
-					}
-				}
+				checkCommand(t, "$( "+content+" )", deepest, command(" "+content+" "))
+				checkCommand(t, `"$( `+content+` )"`, deepest+1, quoted(command(" "+content+" ")))
+				checkCommand(t, "${a-$(( "+content+" ))}", deepest+2, op("a", "-", arith(" "+content+" ")))
+				checkCommand(t, `${a-"$(( `+content+` ))"}`, deepest+3, op("a", "-", quoted(arith(" "+content+" "))))
+				checkCommand(t, `"${a-"$(( `+content+` ))"}"`, deepest+4, quoted(op("a", "-", quoted(arith(" "+content+" ")))))
 			}
 		}
 	}
@@ -138,7 +244,53 @@ func TestDepthOfUnits(t *testing.T) {
 	checkRefused(t, nested("$(", "", ")", 31), api.ErrWord)
 	checkParts(t, "$("+nested("(", "1", ")", 28)+")", arith(nested("(", "1", ")", 27)))
 	checkRefused(t, "$("+nested("(", "1", ")", 29)+")", api.ErrWord)
-	checkRefused(t, "${a-$("+nested("(", "1", ")", 29)+")}", api.ErrWord)
+	checkParts(t, "${a-$("+nested("(", "1", ")", 27)+")}", op("a", "-", arith(nested("(", "1", ")", 26))))
+	checkRefused(t, "${a-$("+nested("(", "1", ")", 28)+")}", api.ErrWord)
+	checkParts(t, `"`+nested("$(", "a", ")", 28)+`"`, quoted(command(nested("$(", "a", ")", 27))))
+	checkRefused(t, `"`+nested("$(", "a", ")", 29)+`"`, api.ErrWord)
+}
+
+// checkCommand fails unless a string with so many units in one another has the given part alone, also behind others, or is refused if these units are too many.
+func checkCommand(t *testing.T, s string, units int, want api.Part) {
+	t.Helper()
+	for before, parts := range map[string]list{"": nil, "a": {text("a")}, "$b": {param("b")}} {
+		if units > 30 {
+			checkRefused(t, before+s, api.ErrWord)
+		} else {
+			checkParts(t, before+s, append(parts, want)...)
+		}
+	}
+}
+
+// TestMixedUnits nests units of several kinds in one another, near the limit, where the model takes the units that layer 7 takes.
+func TestMixedUnits(t *testing.T) {
+	valid := [2]int{}
+	for seed := range 4000 {
+		next := numbers(seed)
+		before, behind := "", ""
+		for open := 20 + next(14); open > 0; open-- {
+			within := before == "" || strings.HasSuffix(before, "-")
+			switch kind := next(4); {
+			case kind == 0 && within:
+				before, behind = before+`"`, `"`+behind
+			case kind == 1:
+				before, behind = before+"'b'${a-", "}"+behind
+			default:
+				before, behind = before+"${a-", "}"+behind
+			}
+		}
+		s := before + []string{"", "b", "'b'", `\b`, "$b", "${b}", "$((1))"}[next(7)] + behind
+		if checkModel(t, s) != (openUnits(s) <= 30) {
+			t.Errorf("H1: %q with %d units", s, openUnits(s))
+		} else if openUnits(s) <= 30 {
+			valid[1]++
+		} else {
+			valid[0]++
+		}
+	}
+	if valid[0] < 1000 || valid[1] < 1000 {
+		t.Errorf("H1: %d strings are invalid, and %d valid", valid[0], valid[1])
+	}
 }
 
 // TestManyOpenings has more openings than a stack would hold if each one were followed.
@@ -147,8 +299,8 @@ func TestManyOpenings(t *testing.T) {
 	for _, opening := range []string{"$(", "${", "$((", "${a-", `"${a-`, `"$(`, `$("`, `"'${`} {
 		checkRefused(t, strings.Repeat(opening, n), api.ErrWord)
 	}
-	checkRefused(t, nested("${a-", "", "}", n), api.ErrLong)
-	checkRefused(t, nested(`"${a-`, "", `}"`, n), api.ErrLong)
+	checkRefused(t, nested("${a-", "", "}", n), api.ErrWord)
+	checkRefused(t, nested(`"${a-`, "", `}"`, n), api.ErrWord)
 	checkRefused(t, nested("$(", "", ")", n), api.ErrWord)
 	checkRefused(t, nested("${", "", "}", n), api.ErrWord)
 	checkRefused(t, "${a-"+nested("(", "", ")", n), api.ErrWord)

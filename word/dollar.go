@@ -12,14 +12,15 @@ var operators = [...]string{":-", ":=", ":?", ":+", "%%", "##", "-", "=", "?", "
 // readDollar reads what the `$` at the beginning of a string begins, and returns its length.
 func (r *reader) readDollar(s string, quoted bool) (int, api.Errno) {
 	if strings.HasPrefix(s, "$(") || strings.HasPrefix(s, "${") {
-		length, nested := scanUnit(s)
+		length := unitLength(s)
 		if length == 0 {
 			return 0, api.ErrWord
 		}
 		if s[1] == '{' {
 			return length, r.readBraces(s[2:length-1], quoted)
 		}
-		return length, r.readParentheses(s[:length], nested, quoted)
+		r.readParentheses(s[:length], quoted)
+		return length, api.OK
 	}
 	name := nameAfterDollar(s[1:])
 	if name == "" {
@@ -30,18 +31,13 @@ func (r *reader) readDollar(s string, quoted bool) (int, api.Errno) {
 	return 1 + len(name), api.OK
 }
 
-// readParentheses reads a unit that begins with `$(`, in which units are nested in so many at most.
-func (r *reader) readParentheses(unit string, nested int, quoted bool) api.Errno {
-	// Double quotes and braces have no such limit: what is in them is read as a string of its own, whose units count anew.
-	if nested > api.MaxDepth {
-		return api.ErrWord
-	}
+// readParentheses reads a unit that begins with `$(`.
+func (r *reader) readParentheses(unit string, quoted bool) {
 	if len(unit) >= 5 && strings.HasPrefix(unit, "$((") && strings.HasSuffix(unit, "))") {
 		r.add(api.Part{Kind: api.Arith, Quoted: quoted, Text: unit[3 : len(unit)-2]})
 	} else {
 		r.add(api.Part{Kind: api.Command, Quoted: quoted, Text: unit[2 : len(unit)-1]})
 	}
-	return api.OK
 }
 
 // readBraces reads what stands between the braces of a parameter.

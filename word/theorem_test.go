@@ -8,11 +8,15 @@ import (
 	"scullion/api"
 )
 
-// checkPrinted fails unless the printed parts of a string have the same parts, and print as the same text.
+// checkPrinted fails unless the printed parts of a string have the same parts, and print as the same text. Print puts each quoted part between quotes of its own, so that what it writes may have more units in one another than what was parsed; if these are too many, that text is refused.
 func checkPrinted(t *testing.T, s string, parts list) {
 	t.Helper()
 	printed := Print(parts)
 	again, f := Parse(printed)
+	if openUnits(printed) > 30 {
+		checkRefused(t, printed, api.ErrWord)
+		return
+	}
 	if f != api.OK || !same(again, parts) {
 		t.Fatalf("H3: %.200q has %s, but %.200q has %s and %d", s, told(parts), printed, told(again), f)
 	}
@@ -21,14 +25,15 @@ func checkPrinted(t *testing.T, s string, parts list) {
 	}
 }
 
-// checkTheorem fails unless a string has parts for which H3 holds.
-func checkTheorem(t *testing.T, s string) {
+// checkTheorem fails unless a string has parts for which H3 holds. It returns whether these are printed with no more units in one another than there may be.
+func checkTheorem(t *testing.T, s string) bool {
 	t.Helper()
 	parts, f := Parse(s)
 	if f != api.OK {
 		t.Fatalf("H1: %.200q: the error %d", s, f)
 	}
 	checkPrinted(t, s, parts)
+	return openUnits(Print(parts)) <= 30
 }
 
 func TestPrintedParts(t *testing.T) {
@@ -47,30 +52,49 @@ func TestPrintedParts(t *testing.T) {
 	}
 }
 
-// TestPrintedDeepParts has Words that are nested as deeply as they may be. Print puts each quoted part between quotes of its own, so that what it writes has more units in one another than what was parsed.
+// TestPrintedDeepParts has Words that are nested as deeply as they may be.
 func TestPrintedDeepParts(t *testing.T) {
-	for n := range 30 {
-		for _, inner := range []string{"", "b", "'b'", `"b"`, "$b", "${b}", "${#b}", "$((1))", `"$b"`, "''"} {
-			s := nested("${a-", inner, "}", n)
-			checkTheorem(t, s)
-			if s != "" {
-				checkTheorem(t, `"`+strings.ReplaceAll(s, `"`, "")+`"`)
-			}
-			if n > 0 {
-				checkTheorem(t, `"c`+s+`d"`)
-				checkTheorem(t, nested(`"${a-`, inner, `}"`, n))
-				checkTheorem(t, nested(`${a-"b`, "", `c"}`, n))
-			}
+	check := func(s string, readable bool) {
+		t.Helper()
+		if checkTheorem(t, s) != readable {
+			t.Errorf("H3: %q is printed with %d units", s, openUnits(Print(first(Parse(s)))))
 		}
 	}
 	for n := range 27 {
+		for _, inner := range []string{"", "b", "'b'", `"b"`, "$b", "${b}", "${#b}", "$((1))", "''"} {
+			check(nested("${a-", inner, "}", n), true)
+			check("c"+nested("${a-", inner, "}", n)+`"d"`, true)
+		}
+		check(nested("${a-", `"$b"`, "}", n), true)
+	}
+	check(nested("${a-", "b", "}", 29), true)
+	check(nested("${a-", "'b'", "}", 29), true)
+	check(nested("${a-", "$b", "}", 28), true)
+	check(nested("${a-", "$((1))", "}", 27), true)
+	// A name is printed in braces, which the parsed text needn't have.
+	check(nested("${a-", "$b", "}", 29), false)
+	check(nested("${a-", `"$b"`, "}", 28), false)
+	for n := 1; n <= 28; n++ {
+		s := `"` + nested("${a-", "b", "}", n) + `"`
+		check(s, n <= 14)
+		check(`"c`+s[1:], n <= 14)
+	}
+	for n := 1; n <= 14; n++ {
+		check(nested(`"${a-`, "b", `}"`, n), true)
+		check(nested(`"${a-`, "'b'", `}"`, n), true)
+		check(nested(`${a-"b`, "", `c"}`, n), true)
+	}
+	for n := range 27 {
 		deep := nested("(", "1", ")", n)
-		checkTheorem(t, "$(("+deep+"))$( "+deep+" )")
-		checkTheorem(t, `"$((`+deep+`))$( `+deep+` )"`)
-		checkTheorem(t, nested("${a-", `"$((`+deep+`))"`, "}", n))
-		checkTheorem(t, `"`+nested("${a-", "$(("+deep+"))", "}", n+1)+`"`)
+		check("$(("+deep+"))$( "+deep+" )", true)
+		check(`"$((`+deep+`))"`, true)
+		check(`"$( `+deep+` )$b"`, true)
+		check("${a-$(("+nested("(", "1", ")", 26-n)+"))}"+nested("${a-", `"$((`+nested("(", "1", ")", 26-n)+`))"`, "}", n), true)
 	}
 }
+
+// first returns parts without the error beside them.
+func first(parts list, _ api.Errno) list { return parts }
 
 // someTexts returns texts in which everything that means something in a word stands.
 func someTexts() []string {

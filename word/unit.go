@@ -1,47 +1,43 @@
 package word
 
-import "strings"
+import (
+	"strings"
+
+	"scullion/api"
+)
 
 // noByte stands for a closing byte where there is none.
 const noByte = 0
 
-// nest holds the closing bytes of the units that are not closed yet. It is a list, as the units of any string may be nested in more than there is room for calls.
-type nest []byte
-
-// innermost returns the closing byte of the innermost unit.
-func (n nest) innermost() byte {
-	if len(n) == 0 {
-		return noByte
-	}
-	return n[len(n)-1]
+// unitLength returns the length of the unit that a string begins with, or 0 if it is invalid: if it, or one in it, is not closed or nested too deeply.
+func unitLength(s string) int {
+	// What stands in a unit is read only if the whole unit is valid, so that it doesn't matter that the units in it count from one on when they are taken themselves.
+	return lengthWithin(s, 1, noByte)
 }
 
-// closes tells whether a byte closes the innermost unit.
-func (n nest) closes(c byte) bool { return len(n) > 0 && n.innermost() == c }
-
-// scanUnit returns the length of the unit that a string begins with, and in how many units those in it are nested at most, where the unit itself counts as nested in one. It returns 0 and 0 if the unit is not closed.
-func scanUnit(s string) (length, nested int) {
-	var open nest
-	for length < len(s) {
-		if open.closes(s[length]) {
-			open = open[:len(open)-1]
-			length++
-		} else {
-			nested = max(nested, len(open)+1)
-			size, closing := opening(s[length:], open.innermost())
-			length += size
-			if closing != noByte {
-				open = append(open, closing)
-			}
-		}
-		if len(open) == 0 {
-			break
-		}
+// lengthWithin returns the length of the unit that a string begins with, or 0 if it is invalid. The unit is nested in so many units, the innermost of which has the given closing byte.
+func lengthWithin(s string, nested int, within byte) int {
+	if nested > api.MaxDepth {
+		return 0
 	}
-	if len(open) > 0 || length > len(s) {
-		return 0, 0
+	length, closing := opening(s, within)
+	if closing == noByte {
+		if length > len(s) {
+			return 0
+		}
+		return length
 	}
-	return length, nested
+	for length < len(s) && s[length] != closing {
+		inner := lengthWithin(s[length:], nested+1, closing)
+		if inner == 0 {
+			return 0
+		}
+		length += inner
+	}
+	if length == len(s) {
+		return 0
+	}
+	return length + 1
 }
 
 // opening returns the length of the unit that a string begins with, within a unit with the given closing byte. If other units may stand in it, that is the length of what is before these, and its closing byte. The length of a unit that is not closed is greater than that of the string.
